@@ -22,3 +22,19 @@ func Route(r api.Route) api.Route {
 	r.A = Attrs(r.A)
 	return r
 }
+
+// Option is o, with lists of its own.
+func Option(o api.Option) api.Option {
+	o.R = Route(o.R)
+	return o
+}
+
+// Want is w, with lists of its own.
+func Want(w api.Want) api.Want {
+	w.First = Option(w.First)
+	w.Detours = slices.Clone(w.Detours)
+	for i, o := range w.Detours {
+		w.Detours[i] = Option(o)
+	}
+	return w
+}

@@ -63,3 +63,49 @@ func TestAttrs(t *testing.T) {
 		}
 	}
 }
+
+// richWant is a want of which every list has something.
+func richWant() api.Want {
+	o := api.Option{R: rich(), Iface: 2}
+	return api.Want{P: api.Prefix{Len: 1}, N: 9, First: o, Detours: []api.Option{{R: rich(), Iface: 3}, {R: rich(), Iface: 4}}, At: 1}
+}
+
+// spoilWant is as spoil, of a want.
+func spoilWant(w api.Want) {
+	spoil(w.First.R.A)
+	for i := range w.Detours {
+		spoil(w.Detours[i].R.A)
+		w.Detours[i] = api.Option{}
+	}
+	_ = append(w.Detours, api.Option{Iface: -3})
+}
+
+// R3: as TestRoute, of options and of wants.
+func TestWant(t *testing.T) {
+	o := richWant().First
+	c := own.Option(o)
+	if !reflect.DeepEqual(c, o) {
+		t.Error(c)
+	}
+	spoil(c.R.A)
+	if !reflect.DeepEqual(o, richWant().First) {
+		t.Error("the copy shares with", o)
+	}
+	w := richWant()
+	d := own.Want(w)
+	if !reflect.DeepEqual(d, w) {
+		t.Error(d)
+	}
+	spoilWant(d)
+	if !reflect.DeepEqual(w, richWant()) {
+		t.Error("the copy shares with", w)
+	}
+	d = own.Want(w)
+	spoilWant(w)
+	if !reflect.DeepEqual(d, richWant()) {
+		t.Error("what is copied shares with", d)
+	}
+	if d := own.Want(api.Want{At: -1}); !reflect.DeepEqual(d, api.Want{At: -1}) {
+		t.Error(d)
+	}
+}
