@@ -184,8 +184,10 @@ func TestFits(t *testing.T) {
 		{0, 0, 3, true}, {0, 1, 3, false}, {0, 1, 4, true}, {2, 0, 0, true}, {2, 1, 0, false}, {2, 1, 1, true},
 		{2, 0, -1, false}, {2, -5, -1, false}, {2, -5, 0, true}, {2, 5, math.MinInt, false}, {math.MaxInt, 5, 5, true}, {math.MaxInt, 6, 5, false},
 		{2, api.MaxSum, api.MaxSum, true}, {2, api.MaxSum, api.MaxSum - 1, false}, {2, math.MaxInt, api.MaxSum, true}, {2, math.MaxInt, math.MaxInt, true},
-		{1, api.MaxSum - 10, api.MaxSum, true}, {1, api.MaxSum - 9, api.MaxSum, false}, {1, math.MaxInt, api.MaxSum, false}, {1, math.MaxInt, api.MaxSum + 10, true},
-		{1, math.MaxInt, math.MaxInt, true}, {-1, 0, 0, false}, {-1, 0, math.MaxInt, false}, {math.MinInt, 0, math.MaxInt, false},
+		{1, api.MaxSum - 11, api.MaxSum - 1, true}, {1, api.MaxSum - 10, api.MaxSum - 1, false}, {1, api.MaxSum - 9, api.MaxSum - 1, false}, {1, math.MaxInt, api.MaxSum - 1, false},
+		{1, api.MaxSum - 10, api.MaxSum, true}, {1, api.MaxSum - 9, api.MaxSum, true}, {1, api.MaxSum, api.MaxSum, true}, {1, math.MaxInt, api.MaxSum, true},
+		{1, math.MaxInt, api.MaxSum + 1, true}, {1, math.MaxInt, math.MaxInt, true}, {-1, 0, 0, false}, {-1, 0, math.MaxInt, false}, {-1, math.MaxInt, math.MaxInt, false},
+		{math.MinInt, 0, math.MaxInt, false},
 	} {
 		if got := l.Fits(x.iface, x.n, x.limit); got != x.want {
 			t.Error(x, got)
@@ -196,6 +198,27 @@ func TestFits(t *testing.T) {
 	l.Add(-1, api.MaxSum)
 	if l.Fits(1, 0, 10) || l.Fits(2, 0, math.MaxInt) || l.Fits(1, 0, math.MaxInt) {
 		t.Error("they are over")
+	}
+}
+
+// P21.1: what fits is what Add then makes of a load: up to MaxSum, and no further.
+func TestFitsCapped(t *testing.T) {
+	for _, had := range []int{0, 1, api.MaxSum / 2, api.MaxSum/2 + 1, api.MaxSum - 40, api.MaxSum - 1} {
+		for _, n := range append(odd(), 40, 41, api.MaxSum/2, api.MaxSum/2+1) {
+			l := load.New()
+			l.Add(3, had)
+			var fits []bool
+			for _, limit := range odd() {
+				fits = append(fits, l.Fits(3, n, limit))
+			}
+			over(t, l, false)
+			l.Add(3, n)
+			for i, limit := range odd() {
+				if fits[i] != (l.Of(3) <= limit) {
+					t.Error(had, n, limit, fits[i])
+				}
+			}
+		}
 	}
 }
 
@@ -358,20 +381,22 @@ func TestModel(t *testing.T) {
 			} else {
 				l.Add(iface, n)
 			}
-			held(t, l, m, next(&seed)%300-20)
+			held(t, l, m, 20, next(&seed)%300-20)
+			held(t, l, m, odd()[next(&seed)%len(odd())], odd()[next(&seed)%len(odd())])
 		}
 	}
 }
 
-// held asks l for all that the model knows.
-func held(t *testing.T, l *load.Loads, m model, limit int) {
+// held asks l for all that the model knows, and whether n more fits up to a limit.
+func held(t *testing.T, l *load.Loads, m model, n, limit int) {
 	t.Helper()
 	var all []api.Load
-	for iface, n := range m.by {
-		if n > 0 {
-			all = append(all, api.Load{Iface: iface, N: n})
+	for iface, had := range m.by {
+		if had > 0 {
+			all = append(all, api.Load{Iface: iface, N: had})
 		}
-		if l.Fits(iface, 20, limit) != (!m.over && n+20 <= limit) {
+		sum := min(had+min(max(n, 0), api.MaxSum), api.MaxSum)
+		if l.Fits(iface, n, limit) != (!m.over && sum <= limit) {
 			t.Fatal(iface, n, limit, m)
 		}
 	}

@@ -275,7 +275,7 @@ func TestOver(t *testing.T) {
 	plans(t, c, x, []api.Want{want(half, 3, -1), want(80, 1, -1, 2), want(half-2, 2, -1), want(20, 1, -1, 0, 3)}, at(1, -1, -1, -1, 1))
 }
 
-// P22.1: up to a limit of MaxSum what is just MaxSum fits; the loads are over then, and nothing fits any more.
+// P22.1: up to a limit of MaxSum anything fits, as sums are capped there; the loads are over then, and nothing fits any more. Below such a limit a sum of MaxSum does not fit.
 func TestMaxSum(t *testing.T) {
 	x := carries(t, 0, 10, api.MaxSum, 100)
 	c := settings(1000, 1000, 16)
@@ -283,12 +283,33 @@ func TestMaxSum(t *testing.T) {
 		n    int
 		plan api.Plan
 	}{
-		{api.MaxSum - 19, at(2, 1, 0, -1)}, {api.MaxSum - 20, at(1, 0, -1, -1)}, {api.MaxSum - 21, at(2, 0, 0, -1)},
+		{api.MaxSum - 1, at(1, 0, -1, -1)}, {api.MaxSum - 19, at(1, 0, -1, -1)}, {api.MaxSum - 20, at(1, 0, -1, -1)}, {api.MaxSum - 21, at(2, 0, 0, -1)},
 	} {
 		plans(t, c, x, []api.Want{want(20, 1, -1, 2, 3), want(15, 1, -1, 3), want(y.n, 2, -1)}, y.plan)
 	}
-	plans(t, c, x, []api.Want{want(20, 2, 0, 1), want(15, 1, -1, 3), want(api.MaxSum-20, 2, -1)}, at(1, -1, -1, -1))
+	for _, n := range []int{api.MaxSum - 1, api.MaxSum - 19, api.MaxSum - 20} {
+		plans(t, c, x, []api.Want{want(20, 2, 0, 1), want(15, 1, -1, 3), want(n, 2, -1)}, at(1, -1, -1, -1))
+	}
 	plans(t, c, x, []api.Want{want(20, 2, 0, 1), want(15, 1, -1, 3), want(api.MaxSum-21, 2, -1)}, at(2, -1, 0, -1))
+	x = carries(t, 0, 10, api.MaxSum-1, 100)
+	for _, n := range []int{api.MaxSum - 1, api.MaxSum - 19, api.MaxSum - 20} {
+		plans(t, c, x, []api.Want{want(20, 1, -1, 2, 3), want(15, 1, -1, 3), want(n, 2, -1)}, at(2, 1, 0, -1))
+		plans(t, c, x, []api.Want{want(20, 2, 0, 1), want(15, 1, -1, 3), want(n, 2, -1)}, at(1, 0, 0, -1))
+	}
+}
+
+// P22.1: loads that come to be over within a cycle leave nothing to move, and nothing overloaded: the plan is neither More nor Over.
+func TestOverWithin(t *testing.T) {
+	x := carries(t, 0, 10, api.MaxSum, 100)
+	l := []api.Want{want(20, 1, -1, 2), want(30, 1, -1, 3), want(api.MaxSum-5, 2, -1), want(200, 3, -1, 1, 2)}
+	for _, moves := range []int{1, 2, 16} {
+		plans(t, settings(1000, 1000, moves), x, l, at(1, 0, -1, -1, -1))
+	}
+	behind := pick.With(l, at(1, 0))
+	if ids := pick.Overloaded(settings(1000, 1000, 16), x, behind); len(ids) != 0 {
+		t.Error(ids)
+	}
+	plans(t, settings(1000, 1000, 16), x, behind, api.Plan{At: []int{0, -1, -1, -1}, Over: true})
 }
 
 // P22.1: what goes back stands beside itself where its first choice has the interface of its detour: it fits there once more, or stays.
@@ -300,7 +321,9 @@ func TestSameInterface(t *testing.T) {
 	plans(t, c, x, []api.Want{want(35, 1, 0, 1), want(35, 1, 0, 1)}, at(0, 0, 0))
 	// Its sum is never twice its N.
 	half := api.MaxSum/2 + 1
-	plans(t, settings(1000, 1000, 16), x, []api.Want{want(half-1, 2, 0, 2), want(1, 2, -1), want(60, 1, -1, 2), want(60, 1, -1, 2)}, at(2, -1, -1, 0, -1))
+	for _, n := range []int{half - 2, half - 1, half, api.MaxSum - 100} {
+		plans(t, settings(1000, 1000, 16), x, []api.Want{want(n, 2, 0, 2), want(1, 2, -1), want(60, 1, -1, 2), want(60, 1, -1, 2)}, at(2, -1, -1, 0, -1))
+	}
 }
 
 // P22.1: the interfaces that are overloaded, by their numbers.
@@ -431,20 +454,30 @@ func (m *model) load(id int) int {
 	sum := 0
 	for i, w := range m.l {
 		if m.way(i) == id {
-			sum += max(w.N, 0)
+			sum = min(sum+max(w.N, 0), api.MaxSum)
 		}
 	}
 	return sum
 }
 
+// over tells whether a number, or a sum, is MaxSum.
+func (m *model) over() bool {
+	for i, w := range m.l {
+		if w.N >= api.MaxSum || m.way(i) >= 0 && m.load(m.way(i)) == api.MaxSum {
+			return true
+		}
+	}
+	return false
+}
+
 func (m *model) fits(id, n, permille int) bool {
 	_, told := m.x.Get(id)
-	return told && m.load(id)+max(n, 0) <= m.x.Limit(id, permille)
+	return told && !m.over() && min(m.load(id)+max(n, 0), api.MaxSum) <= m.x.Limit(id, permille)
 }
 
 func (m *model) overloaded(id int) bool {
 	_, told := m.x.Get(id)
-	return told && m.load(id) > m.x.Limit(id, m.c.High)
+	return told && !m.over() && m.load(id) > m.x.Limit(id, m.c.High)
 }
 
 // other is the first detour that the i-th want may take, or below 0.
@@ -539,6 +572,30 @@ func anyWants(seed *uint64) []api.Want {
 	return l
 }
 
+// greater makes some of any wants about as great as may be, or half of that.
+func greater(seed *uint64, l []api.Want) {
+	for i := range l {
+		switch next(seed, 12) {
+		case 0:
+			l[i].N = api.MaxSum - 80 + next(seed, 81)
+		case 1:
+			l[i].N = api.MaxSum/2 - 10 + next(seed, 20)
+		}
+	}
+}
+
+// mostCarries are of six interfaces, of which some carry as much as may be, or a little less.
+func mostCarries(t *testing.T, seed *uint64) *capa.Capa {
+	caps := make([]int, 6)
+	for id := range caps {
+		caps[id] = next(seed, 120)
+		if next(seed, 3) > 0 {
+			caps[id] = api.MaxSum - next(seed, 4)/2*next(seed, 40)
+		}
+	}
+	return carries(t, caps...)
+}
+
 // anyCarries are of six interfaces, of which some are to be left.
 func anyCarries(t *testing.T, seed *uint64) *capa.Capa {
 	x := carries(t, next(seed, 120), next(seed, 120), next(seed, 80), next(seed, 80), next(seed, 60), next(seed, 60))
@@ -557,22 +614,40 @@ func TestModel(t *testing.T) {
 		if round%2 == 0 {
 			c.Low, c.High = min(c.Low, c.High), max(c.Low, c.High)
 		}
-		m := model{c: c, x: x, l: slices.Clone(l)}
-		if got, is := pick.Stuck(c, x, l), m.stuck(); got != is {
-			t.Fatal(l, got)
-		}
-		m.run()
-		p := pick.Run(c, x, l)
-		for i, w := range m.l {
-			if p.At[i] != w.At {
-				t.Fatal(c.High, c.Low, c.Moves, l, p, m)
-			}
-		}
-		if len(p.At) != len(l) || p.Moves != m.moves || p.More != m.more || p.Over {
-			t.Fatal(l, p, m)
-		}
-		follows(t, c, x, l, p)
+		modelled(t, c, x, l)
 	}
+}
+
+// P22.1: likewise, where sums come near MaxSum, and beyond it.
+func TestModelGreat(t *testing.T) {
+	seed := uint64(35)
+	for range 3000 {
+		x, l := mostCarries(t, &seed), anyWants(&seed)
+		greater(&seed, l)
+		c := settings(1000-next(&seed, 3)/2*next(&seed, 600), 1000-next(&seed, 3)/2*next(&seed, 600), next(&seed, 12)-1)
+		modelled(t, c, x, l)
+	}
+}
+
+// modelled holds a cycle against the model's.
+func modelled(t *testing.T, c api.Conf, x *capa.Capa, l []api.Want) {
+	t.Helper()
+	m := model{c: c, x: x, l: slices.Clone(l)}
+	over := m.over()
+	if got, is := pick.Stuck(c, x, l), m.stuck(); got != is {
+		t.Fatal(l, got)
+	}
+	m.run()
+	p := pick.Run(c, x, l)
+	for i, w := range m.l {
+		if p.At[i] != w.At {
+			t.Fatal(c.High, c.Low, c.Moves, l, p, m)
+		}
+	}
+	if len(p.At) != len(l) || p.Moves != m.moves || p.More != m.more || p.Over != over {
+		t.Fatal(l, p, m)
+	}
+	follows(t, c, x, l, p)
 }
 
 // P22.2: no interface is overloaded that was not, wants are stuck, no more are moved than may be; nothing goes back but where it fits up to Low.
