@@ -38,3 +38,19 @@ func Want(w api.Want) api.Want {
 	}
 	return w
 }
+
+// Says is l, with lists of its own.
+func Says(l []api.Say) []api.Say {
+	l = slices.Clone(l)
+	for i := range l {
+		l[i].A = Attrs(l[i].A)
+	}
+	return l
+}
+
+// Conf is c, with lists of its own.
+func Conf(c api.Conf) api.Conf {
+	c.Ifaces = slices.Clone(c.Ifaces)
+	c.Deny = slices.Clone(c.Deny)
+	return c
+}

@@ -109,3 +109,45 @@ func TestWant(t *testing.T) {
 		t.Error(d)
 	}
 }
+
+// R3: as TestRoute, of what is said, and of settings.
+func TestSays(t *testing.T) {
+	made := func() []api.Say {
+		return []api.Say{{P: api.Prefix{Len: 1}, A: rich().A}, {A: rich().A}}
+	}
+	l := made()
+	c := own.Says(l)
+	if !reflect.DeepEqual(c, l) {
+		t.Fatal(c)
+	}
+	for i := range c {
+		spoil(c[i].A)
+		c[i] = api.Say{}
+	}
+	_ = append(c, api.Say{})
+	if !reflect.DeepEqual(l, made()) {
+		t.Error("the copy shares with", l)
+	}
+	if c := own.Says(nil); len(c) != 0 {
+		t.Error(c)
+	}
+}
+
+func TestConf(t *testing.T) {
+	made := func() api.Conf {
+		return api.Conf{AS: 5, Moves: 3, Ifaces: []api.Iface{{ID: 1}, {ID: 2, Cap: 9}}, Deny: []int{6, 7}}
+	}
+	s := made()
+	c := own.Conf(s)
+	if !reflect.DeepEqual(c, s) {
+		t.Fatal(c)
+	}
+	c.Ifaces[1], c.Deny[0] = api.Iface{}, -1
+	_, _ = append(c.Ifaces, api.Iface{}), append(c.Deny, -3)
+	if !reflect.DeepEqual(s, made()) {
+		t.Error("the copy shares with", s)
+	}
+	if c := own.Conf(api.Conf{}); !reflect.DeepEqual(c, api.Conf{}) {
+		t.Error(c)
+	}
+}
